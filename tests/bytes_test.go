@@ -212,11 +212,10 @@ func plainNum(text string) impl.NumOut {
 	return impl.NumOut{N: n, At: int64(size)}
 }
 
-// Promise 1: nothing but what PutNum writes is read as a number.
-func TestGetNumOfAllTextsOfSomeBytes(t *testing.T) {
-	const some = "\x00\x01\x02\x7f\x80\x81\xff"
+// textsOf are all texts of at most that many of some bytes.
+func textsOf(some string, most int) []string {
 	texts := []string{""}
-	for from, size := 0, 1; size <= 4; size++ {
+	for from, size := 0, 1; size <= most; size++ {
 		to := len(texts)
 		for _, text := range texts[from:to] {
 			for i := range len(some) {
@@ -225,6 +224,12 @@ func TestGetNumOfAllTextsOfSomeBytes(t *testing.T) {
 		}
 		from = to
 	}
+	return texts
+}
+
+// Promise 1: nothing but what PutNum writes is read as a number.
+func TestGetNumOfAllTextsOfSomeBytes(t *testing.T) {
+	texts := textsOf("\x00\x01\x02\x7f\x80\x81\xff", 4)
 	for _, ahead := range []string{"", "\x80\x80\x80\x80\x80\x80\x80", "\xff\xff\xff\xff\xff\xff\xff\xff"} {
 		for _, text := range texts {
 			want := plainNum(ahead + text)
