@@ -303,15 +303,6 @@ func TestCrlReadOfListsThatAreNotRight(t *testing.T) {
 	}
 }
 
-// eachList has no Serials, some, and as many and as long ones as may be.
-func eachList() map[string]impl.Crl {
-	all := map[string]impl.Crl{}
-	for _, what := range []string{"the plain one", "no Serials", "1 alone", "the longest", "the shortest"} {
-		all[what] = rightCrls()[what]
-	}
-	return all
-}
-
 func TestCrlReadOfListsThatAreCutOrGoOn(t *testing.T) {
 	for what, c := range rightCrls() {
 		text := impl.CrlBytes(c)
@@ -327,7 +318,7 @@ func TestCrlReadOfListsThatAreCutOrGoOn(t *testing.T) {
 
 // Of a changed list, just the right one whose bytes these are may be told.
 func TestCrlReadOfListsWithAByteChanged(t *testing.T) {
-	for what, c := range eachList() {
+	for what, c := range rightCrls() {
 		text := impl.CrlBytes(c)
 		for at := range len(text) {
 			for _, by := range []byte{1, 2, 4, 8, 16, 32, 64, 128, 3, 127, 255} {

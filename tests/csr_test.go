@@ -338,17 +338,19 @@ func TestCsrReadOfOnesThatAreNotRight(t *testing.T) {
 	}
 }
 
-// eachAsk has one name, two, and as many and as long ones as may be.
-func eachAsk() map[string]impl.Csr {
-	return map[string]impl.Csr{
-		"the plain one":  plainCsr(),
-		"1 name":         impl.CsrSign(1, []string{"z"}),
-		"MaxNames names": impl.CsrSign(impl.GroupQ-1, manyNames(impl.MaxNames)),
+// rightCsrs are signed by the lowest secret, the highest, and one between.
+func rightCsrs() map[string]impl.Csr {
+	all := map[string]impl.Csr{}
+	for what, names := range rightNames() {
+		for _, x := range []int64{1, 1001, impl.GroupQ - 1} {
+			all[fmt.Sprint(what, ", signed by ", x)] = impl.CsrSign(x, names)
+		}
 	}
+	return all
 }
 
 func TestCsrReadOfOnesThatAreCutOrGoOn(t *testing.T) {
-	for what, c := range eachAsk() {
+	for what, c := range rightCsrs() {
 		text := impl.CsrBytes(c)
 		checkCsrRead(t, what, text, impl.CsrOut{Csr: c})
 		for cut := range len(text) {
@@ -365,7 +367,7 @@ func TestCsrReadOfOnesThatAreCutOrGoOn(t *testing.T) {
 }
 
 func TestCsrReadOfOnesWithAByteChanged(t *testing.T) {
-	for what, c := range eachAsk() {
+	for what, c := range rightCsrs() {
 		text := impl.CsrBytes(c)
 		for at := range len(text) {
 			for _, by := range []byte{1, 2, 4, 8, 16, 32, 64, 128, 3, 127, 255} {
