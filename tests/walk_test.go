@@ -56,6 +56,8 @@ type walk struct {
 	// found are the Auths that were found by Probe, told how often each thing was told.
 	found map[int64]bool
 	told  map[string]int
+	// then, if there is one, is called with each deed, and what it answers.
+	then func(one deed, want impl.AcmeOut)
 }
 
 func (w *walk) draw(most int) int64 {
@@ -87,18 +89,16 @@ func (w *walk) isAt(account int64, secret int64) bool {
 func (w *walk) step() {
 	switch k := w.draw(19); {
 	case k < 3 || len(w.a.Nonces) == 0:
-		w.call("NewNonce", impl.NewNonce, plainNonce(w.a))
+		w.call(nonceDeed())
 	case k < 5:
 		n := w.draw(6)
 		if w.oneIn(16) {
 			n = []int64{-1, 45, 110, 210, 100001}[w.draw(4)]
 		}
-		w.call(fmt.Sprint("Tick ", n), func(a impl.Acme) impl.AcmeOut { return impl.Tick(a, n) }, plainTick(w.a, n))
+		w.call(tickDeed(n))
 	case k < 9:
 		n, good := w.pick(len(w.a.Auths), func(n int64) bool { return plainAuth(w.a, n) == 2 }), !w.oneIn(8)
-		want := plainProbe(w.a, n, good)
-		w.call(fmt.Sprint("Probe ", n, good), func(a impl.Acme) impl.AcmeOut { return impl.Probe(a, n, good) }, want)
-		if good && want.Code == impl.OK {
+		if want := w.call(probeDeed(n, good)); good && want.Code == impl.OK {
 			w.found[n] = true
 		}
 	default:
@@ -120,9 +120,8 @@ func (w *walk) handle() {
 	if w.oneIn(40) {
 		text = text[1:]
 	}
-	want := plainHandle(w.a, text)
 	before := w.a
-	w.call(fmt.Sprintf("Handle of %d, %s", secret, url), handleOf(text), want)
+	want := w.call(handleDeed(fmt.Sprintf("%d, %s", secret, url), text))
 	w.told[fmt.Sprint(url, " ", want.Code)]++
 	if want.Code == impl.OK || !sameAcme(want.Acme, impl.Acme{}) {
 		w.asked = append(w.asked, text)
@@ -173,18 +172,23 @@ func (w *walk) body(secret int64, url string) string {
 	return finishBody(n, csr)
 }
 
-// call checks a call, and goes on with what it answered, if that is an office.
-func (w *walk) call(what string, call func(a impl.Acme) impl.AcmeOut, want impl.AcmeOut) {
+// call checks a deed, goes on with what it answered, if that is an office, and tells what was to be answered.
+func (w *walk) call(one deed) impl.AcmeOut {
 	w.t.Helper()
 	before := w.a
-	got := checkCall(w.t, what, before, call, want)
+	want := one.plain(before)
+	got := checkCall(w.t, one.name, before, one.acme, want)
 	w.told[fmt.Sprint("code ", got.Code)]++
+	if w.then != nil {
+		w.then(one, want)
+	}
 	if !impl.AcmeRight(got.Acme) {
-		return
+		return want
 	}
 	w.a = got.Acme
 	w.checkKept(before)
 	w.checkGood()
+	return want
 }
 
 // checkKept: what was issued stays, and stays revoked; a request that was taken once is taken no more.
